@@ -150,18 +150,15 @@ func told(id, blocks int) int {
 	return max(1, blocks/2)
 }
 
-// row answers the blocks by which the row of a symbol comes, till each of them was there.
-func row(id, blocks int) []int {
-	var l []int
+// row answers which blocks are in when the row of a symbol has come by n of them.
+func row(id, blocks, n int) []bool {
 	seen := make([]bool, blocks)
 	x := uint16(id)*1109 + 12345
-	for count(seen) < blocks {
+	for count(seen) < n {
 		x = x*1109 + 12345
-		at := int(x/7) % blocks
-		seen[at] = true
-		l = append(l, at)
+		seen[int(x/7)%blocks] = true
 	}
-	return l
+	return seen
 }
 
 func TestEachSymbolHasAsManyAsTold(t *testing.T) {
@@ -180,13 +177,8 @@ func TestEachSymbolHasAsManyAsTold(t *testing.T) {
 
 func TestTheFirstOfTheRowAreIn(t *testing.T) {
 	for blocks := 1; blocks <= api.MaxBlocks; blocks++ {
-		for id := blocks; id <= api.MaxID; id += 7 {
-			want := make([]bool, blocks)
-			for _, at := range row(id, blocks) {
-				if count(want) < told(id, blocks) {
-					want[at] = true
-				}
-			}
+		for id := blocks; id <= api.MaxID; id++ {
+			want := row(id, blocks, told(id, blocks))
 			if l, e := Of(id, blocks); e != api.OK || !slices.Equal(l, want) {
 				t.Fatalf("%d of %d: %v %d, want %v", id, blocks, l, e, want)
 			}
