@@ -5,6 +5,7 @@ import (
 	"slices"
 
 	"bottlepost/api"
+	"bottlepost/copies"
 	"bottlepost/note"
 	"bottlepost/solve"
 )
@@ -18,7 +19,7 @@ func Next(p api.Place, r api.Rec) (api.Place, api.Errno) {
 		return api.Place{}, e
 	}
 	// What is at work is a copy: where an error comes late, it is thrown away half done.
-	q := placeCopy(p)
+	q := copies.Place(p)
 	if e := do(&q, r); e != api.OK {
 		return api.Place{}, e
 	}
@@ -126,7 +127,7 @@ func keepSymbol(k *api.Kept, s api.Symbol) api.Errno {
 	case len(k.Symbols) >= api.MaxSymbols:
 		return api.ErrMany
 	}
-	k.Symbols = append(k.Symbols, symbolCopy(s))
+	k.Symbols = append(k.Symbols, copies.Symbol(s))
 	return api.OK
 }
 
